@@ -1,6 +1,16 @@
 package index
 
-import "islands/api"
+import (
+	"islands/api"
+	"islands/tour"
+)
+
+// edge: what is known of one; the zero value stands where there is none.
+type edge struct {
+	there  bool
+	forest bool
+	level  int
+}
 
 // isVertex is false for all numbers where there is no index, so that the nil
 // of a refused New has no vertices instead of a fault.
@@ -20,42 +30,9 @@ func (i *Index) checkEnds(u int, v int) api.Errno {
 }
 
 // setEdge: u and v are vertices.
-func (i *Index) setEdge(u int, v int, there bool) {
-	i.edge[u][v] = there
-	i.edge[v][u] = there
-}
-
-// component lists the vertices of v's component; v is a vertex.
-func (i *Index) component(v int) []int {
-	var seen [api.MaxN]bool
-	seen[v] = true
-	found := []int{v}
-	// A vertex is listed once alone, so the list that is walked ends.
-	for k := 0; k < len(found); k++ {
-		u := found[k]
-		for w := 0; w < i.n; w++ {
-			if i.edge[u][w] && !seen[w] {
-				seen[w] = true
-				found = append(found, w)
-			}
-		}
-	}
-	return found
-}
-
-func (i *Index) countComponents() int {
-	var seen [api.MaxN]bool
-	count := 0
-	for v := 0; v < i.n; v++ {
-		if seen[v] {
-			continue
-		}
-		count++
-		for _, w := range i.component(v) {
-			seen[w] = true
-		}
-	}
-	return count
+func (i *Index) setEdge(u int, v int, e edge) {
+	i.edges[u][v] = e
+	i.edges[v][u] = e
 }
 
 func (i *Index) countEdges() int {
@@ -63,7 +40,7 @@ func (i *Index) countEdges() int {
 	for v := 0; v < i.n; v++ {
 		// The lesser end alone counts, as both ways are marked.
 		for u := 0; u < v; u++ {
-			if i.edge[u][v] {
+			if i.edges[u][v].there {
 				count++
 			}
 		}
@@ -71,11 +48,15 @@ func (i *Index) countEdges() int {
 	return count
 }
 
-func contains(list []int, v int) bool {
-	for _, w := range list {
-		if w == v {
-			return true
-		}
-	}
-	return false
+// joined: F(0) connects what the graph connects.
+func (i *Index) joined(u int, v int) bool {
+	least := i.forests[0].Least(u)
+	return least == i.forests[0].Least(v)
+}
+
+// vertices lists those of v's tree in F(level) in the order of its tour from
+// the least on. The list is fresh.
+func (i *Index) vertices(v int, level int) []int {
+	round := i.forests[level].Round(v)
+	return tour.Vertices(round)
 }

@@ -1,13 +1,23 @@
 // Package index: graphs whose edges come and go: see DOC.md.
 package index
 
-import "islands/api"
+import (
+	"islands/api"
+	"islands/tour"
+)
+
+// maxLevel: topLevel of api.MaxN, as the length of an array must be a constant.
+const maxLevel = 5
 
 // Index: of a graph.
 type Index struct {
 	n int
 	// Both ways of an edge are marked, so that a search from either end meets it.
-	edge [api.MaxN][api.MaxN]bool
+	edges [api.MaxN][api.MaxN]edge
+	// forests[k] is F(k), the edges of the forest whose level is k or more.
+	forests [maxLevel + 1]tour.Forest
+	// rises: how often an edge has risen.
+	rises int
 }
 
 // New: of n vertices without edges (P2).
@@ -15,7 +25,12 @@ func New(n int, seed int) (*Index, api.Errno) {
 	if n < 1 || n > api.MaxN {
 		return nil, api.ErrArg
 	}
-	return &Index{n: n}, api.OK
+	i := &Index{n: n}
+	top := topLevel(n)
+	for k := 0; k <= top; k++ {
+		i.forests[k].Plant(n)
+	}
+	return i, api.OK
 }
 
 // Load: the index that bytes are (P9, P10). Not built yet.
@@ -24,29 +39,38 @@ func Load(s string, seed int) (*Index, api.Errno) { return nil, api.OK }
 // Save: all that there is, as bytes (P8). Not built yet.
 func (i *Index) Save() string { return "" }
 
-// Insert: an edge comes (P3).
+// Insert: an edge comes (P3, P5).
 func (i *Index) Insert(u int, v int) api.Errno {
 	e := i.checkEnds(u, v)
 	if e != api.OK {
 		return e
 	}
-	if i.edge[u][v] {
+	if i.edges[u][v].there {
 		return api.ErrThere
 	}
-	i.setEdge(u, v, true)
+	if i.joined(u, v) {
+		i.setEdge(u, v, edge{there: true})
+		return api.OK
+	}
+	i.plantEdge(u, v, 0)
 	return api.OK
 }
 
-// Delete: an edge goes (P3).
+// Delete: an edge goes (P3, P6).
 func (i *Index) Delete(u int, v int) api.Errno {
 	e := i.checkEnds(u, v)
 	if e != api.OK {
 		return e
 	}
-	if !i.edge[u][v] {
+	gone := i.edges[u][v]
+	if !gone.there {
 		return api.ErrNone
 	}
-	i.setEdge(u, v, false)
+	i.setEdge(u, v, edge{})
+	if gone.forest {
+		i.cutEdge(u, v, gone.level)
+		i.reconnect(u, v, gone.level)
+	}
 	return api.OK
 }
 
@@ -55,8 +79,7 @@ func (i *Index) Connected(u int, v int) (bool, api.Errno) {
 	if !i.isVertex(u) || !i.isVertex(v) {
 		return false, api.ErrArg
 	}
-	reached := i.component(u)
-	return contains(reached, v), api.OK
+	return i.joined(u, v), api.OK
 }
 
 // Size: how many vertices v's component has (P4).
@@ -64,19 +87,24 @@ func (i *Index) Size(v int) (int, api.Errno) {
 	if !i.isVertex(v) {
 		return 0, api.ErrArg
 	}
-	return len(i.component(v)), api.OK
+	members := i.vertices(v, 0)
+	return len(members), api.OK
 }
 
-// Members: the vertices of v's component, in the order of its tour (P7). Not built yet.
-func (i *Index) Members(v int) ([]int, api.Errno) { return nil, api.OK }
+// Members: the vertices of v's component, in the order of its tour (P7).
+func (i *Index) Members(v int) ([]int, api.Errno) {
+	if !i.isVertex(v) {
+		return nil, api.ErrArg
+	}
+	return i.vertices(v, 0), api.OK
+}
 
 // Told: vertices, components, edges, how often an edge has risen (P4, P6).
-// The last is 0 until edges have levels.
 func (i *Index) Told() (int, int, int, int) {
 	if i == nil {
 		return 0, 0, 0, 0
 	}
-	components := i.countComponents()
+	components := i.forests[0].Trees()
 	edges := i.countEdges()
-	return i.n, components, edges, 0
+	return i.n, components, edges, i.rises
 }

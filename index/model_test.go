@@ -68,7 +68,13 @@ func fresh(t *testing.T, n, seed int) *index.Index {
 // move deletes the edge u - v if the model has it, and inserts it if not.
 func move(t *testing.T, x *index.Index, m *model, u, v int) {
 	t.Helper()
-	if m.move(u, v) {
+	act(t, x, m.move(u, v), u, v)
+}
+
+// act inserts or deletes an edge of which nothing is wrong.
+func act(t *testing.T, x *index.Index, insert bool, u, v int) {
+	t.Helper()
+	if insert {
 		if e := x.Insert(u, v); e != api.OK {
 			t.Fatalf("Insert(%d, %d) = %d", u, v, e)
 		}

@@ -58,6 +58,9 @@ func TestP1NoIndex(t *testing.T) {
 		if s, e := x.Size(0); s != 0 || e != api.ErrArg {
 			t.Errorf("Size(0) = %d, %d", s, e)
 		}
+		if l, e := x.Members(0); l != nil || e != api.ErrArg {
+			t.Errorf("Members(0) = %v, %d", l, e)
+		}
 		if a, b, c, d := x.Told(); a != 0 || b != 0 || c != 0 || d != 0 {
 			t.Errorf("Told() = %d, %d, %d, %d", a, b, c, d)
 		}
@@ -119,16 +122,13 @@ func TestP1ErrorsChangeNothing(t *testing.T) {
 
 func TestP1NothingHangsOnTheSeed(t *testing.T) {
 	for _, seed := range append([]int{0, 1, 7}, wild...) {
-		m := model{n: 9}
-		x := fresh(t, m.n, seed)
+		s := newLayers(9)
+		x := fresh(t, s.n, seed)
 		c := chance{5}
 		for k := 0; k < 150; k++ {
-			u := c.below(m.n)
-			v := c.below(m.n)
-			if u != v {
-				move(t, x, &m, u, v)
-			}
-			same(t, x, &m)
+			u, v := s.pick(&c)
+			moveBoth(t, x, s, u, v)
+			alike(t, x, s)
 		}
 	}
 }
@@ -136,26 +136,23 @@ func TestP1NothingHangsOnTheSeed(t *testing.T) {
 func TestP1NoIndexHangsOnAnother(t *testing.T) {
 	const many = 20
 	var xs [many]*index.Index
-	var ms [many]model
+	var ss [many]*layers
 	for k := range xs {
-		ms[k].n = 4 + k%3
-		xs[k] = fresh(t, ms[k].n, 7)
+		ss[k] = newLayers(4 + k%3)
+		xs[k] = fresh(t, ss[k].n, 7)
 	}
 	c := chance{11}
-	for step := 0; step < 600; step++ {
+	for step := 0; step < 1200; step++ {
 		k := c.below(many)
-		u := c.below(ms[k].n)
-		v := c.below(ms[k].n)
-		if u != v {
-			move(t, xs[k], &ms[k], u, v)
-		}
+		u, v := ss[k].pick(&c)
+		moveBoth(t, xs[k], ss[k], u, v)
 		if step%50 == 0 {
 			for j := range xs {
-				same(t, xs[j], &ms[j])
+				alike(t, xs[j], ss[j])
 			}
 		}
 	}
 	for k := range xs {
-		sameEdges(t, xs[k], &ms[k])
+		alike(t, xs[k], ss[k])
 	}
 }
