@@ -3,6 +3,7 @@ package index
 
 import (
 	"islands/api"
+	"islands/frame"
 	"islands/tour"
 )
 
@@ -36,8 +37,20 @@ func New(n int, seed int) (*Index, api.Errno) {
 // Load: the index that bytes are (P9, P10). Not built yet.
 func Load(s string, seed int) (*Index, api.Errno) { return nil, api.OK }
 
-// Save: all that there is, as bytes (P8). Not built yet.
-func (i *Index) Save() string { return "" }
+// Save: all that there is, as bytes (P8).
+func (i *Index) Save() string {
+	// An index without vertices is one that nobody made: it has no bytes.
+	if !i.isVertex(0) {
+		return ""
+	}
+	edges := i.edgeNumbers()
+	tours := i.tourNumbers()
+	saved := magic
+	saved += frame.Of([]int{i.n})
+	saved += frame.Of(edges)
+	saved += frame.Of(tours)
+	return saved
+}
 
 // Insert: an edge comes (P3, P5).
 func (i *Index) Insert(u int, v int) api.Errno {

@@ -128,7 +128,7 @@ func TestP1NothingHangsOnTheSeed(t *testing.T) {
 		for k := 0; k < 150; k++ {
 			u, v := s.pick(&c)
 			moveBoth(t, x, s, u, v)
-			alike(t, x, s)
+			saved(t, x, s)
 		}
 	}
 }
@@ -148,11 +148,11 @@ func TestP1NoIndexHangsOnAnother(t *testing.T) {
 		moveBoth(t, xs[k], ss[k], u, v)
 		if step%50 == 0 {
 			for j := range xs {
-				alike(t, xs[j], ss[j])
+				saved(t, xs[j], ss[j])
 			}
 		}
 	}
 	for k := range xs {
-		alike(t, xs[k], ss[k])
+		saved(t, xs[k], ss[k])
 	}
 }

@@ -5,6 +5,7 @@ import (
 	"testing"
 
 	"islands/api"
+	"islands/index"
 )
 
 // The document's examples 1 to 7: the rises, and a list of members.
@@ -163,8 +164,24 @@ func TestP6ManyMoves(t *testing.T) {
 	}
 }
 
-// A way is halved, then its first half, and so on: each time that half rises,
-// as far as edges may: a tree of F(4) has at most three of 48 vertices.
+// halveWay: a way of n vertices is halved, then its first half, and so on.
+// Behind each cut comes the check.
+func halveWay(t *testing.T, n int, check func(*testing.T, *index.Index, *layers)) (*index.Index, *layers) {
+	t.Helper()
+	s := newLayers(n)
+	x := fresh(t, n, 7)
+	for v := 1; v < n; v++ {
+		moveBoth(t, x, s, v-1, v)
+	}
+	for half := n / 2; half > 0; half /= 2 {
+		moveBoth(t, x, s, half, half-1)
+		check(t, x, s)
+	}
+	return x, s
+}
+
+// Each time that a way is halved the first half rises, as far as edges may: a
+// tree of F(4) has at most three of 48 vertices.
 func TestP6AsFarAsEdgesRise(t *testing.T) {
 	for _, c := range []struct{ n, rises, deepest int }{
 		{2, 0, 0},
@@ -175,23 +192,29 @@ func TestP6AsFarAsEdgesRise(t *testing.T) {
 		{32, 15 + 7 + 3 + 1, 4},
 		{api.MaxN, 23 + 11 + 5 + 2, 4},
 	} {
-		s := newLayers(c.n)
-		x := fresh(t, c.n, 7)
-		for v := 1; v < c.n; v++ {
-			moveBoth(t, x, s, v-1, v)
-		}
-		for half := c.n / 2; half > 0; half /= 2 {
-			moveBoth(t, x, s, half, half-1)
-			alikeInside(t, x, s)
-		}
+		x, s := halveWay(t, c.n, alikeInside)
 		if _, _, _, rises := x.Told(); rises != c.rises || s.deepest != c.deepest {
 			t.Errorf("of %d: edges rose %d times, to level %d, want %d, %d", c.n, rises, s.deepest, c.rises, c.deepest)
 		}
 	}
 }
 
-// All edges come, and all go, those of the forest first, so that most of them
-// leave a long search behind them.
+// letAllGo: all edges go, those of the forest first, so that most of them
+// leave a long search behind them. Now and then, and in the end, comes the check.
+func letAllGo(t *testing.T, x *index.Index, s *layers, check func(*testing.T, *index.Index, *layers)) {
+	t.Helper()
+	c := chance{uint64(s.n)}
+	for k := 0; len(s.edges) > 0; k++ {
+		forest := s.forestEdges()
+		w := forest[c.below(len(forest))]
+		moveBoth(t, x, s, w[0], w[1])
+		if k%9 == 0 || s.n < 20 {
+			check(t, x, s)
+		}
+	}
+	check(t, x, s)
+}
+
 func TestP6AllGo(t *testing.T) {
 	for _, n := range []int{2, 3, 4, 8, 16, 31, 32, api.MaxN} {
 		s := newLayers(n)
@@ -201,16 +224,7 @@ func TestP6AllGo(t *testing.T) {
 				moveBoth(t, x, s, u, v)
 			}
 		}
-		c := chance{uint64(n)}
-		for k := 0; len(s.edges) > 0; k++ {
-			forest := s.forestEdges()
-			w := forest[c.below(len(forest))]
-			moveBoth(t, x, s, w[0], w[1])
-			if k%9 == 0 || n < 20 {
-				alikeInside(t, x, s)
-			}
-		}
-		alikeInside(t, x, s)
+		letAllGo(t, x, s, alikeInside)
 		if n >= 16 && s.dropped == 0 {
 			t.Errorf("of %d: no edge was found below the level of the one that went", n)
 		}

@@ -47,10 +47,16 @@ func (f *Forest) Least(v int) int {
 // lay new lists in its place and leave it as it is.
 func (f *Forest) Round(v int) []Item {
 	least := f.Least(v)
-	if least < 0 {
+	return f.RoundFrom(least)
+}
+
+// RoundFrom: the tour of the tree whose least vertex is v; nil if v is not the
+// least vertex of a tree. The list is the forest's own, as with Round.
+func (f *Forest) RoundFrom(v int) []Item {
+	if v < 0 || v >= len(f.rounds) {
 		return nil
 	}
-	return f.rounds[least]
+	return f.rounds[v]
 }
 
 // Link: u and v, which are in two trees, get an edge.

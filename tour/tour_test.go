@@ -172,6 +172,25 @@ func TestVertices(t *testing.T) {
 	}
 }
 
+// A round is told at its least vertex and at no other.
+func TestRoundFrom(t *testing.T) {
+	f := planted(6, [2]int{2, 5}, [2]int{3, 5}, [2]int{4, 1})
+	for v := 0; v < 6; v++ {
+		want := f.Round(v)
+		if v == 3 || v == 4 || v == 5 {
+			want = nil
+		}
+		if got := f.RoundFrom(v); !equal(got, want) {
+			t.Errorf("from %d: %v, want %v", v, got, want)
+		}
+	}
+	for _, v := range []int{-1, -1 << 63, 6, api.MaxN - 1, api.MaxN, api.MaxN + 1, 1<<63 - 1} {
+		if got := f.RoundFrom(v); got != nil {
+			t.Errorf("from %d: %v", v, got)
+		}
+	}
+}
+
 // A star and a way of all vertices, linked and cut in several orders: each
 // round begins at its least vertex, each item begins where the one ahead ends,
 // and each stands once.
