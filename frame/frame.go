@@ -4,6 +4,9 @@ package frame
 // ones: a sum begins with all bits set, and all are turned in its end.
 const ones uint32 = 1<<32 - 1
 
+// sumBytes: how many a sum has.
+const sumBytes = 4
+
 // Of: the frame that holds the numbers, each of them from 0 to 2^28 - 1.
 func Of(numbers []int) string {
 	content := []byte{}
@@ -13,11 +16,8 @@ func Of(numbers []int) string {
 	}
 	list := written(len(content))
 	list = append(list, content...)
-	crc := sum(content)
-	for k := 0; k < 4; k++ {
-		list = append(list, byte(crc))
-		crc >>= 8
-	}
+	seal := sealOf(content)
+	list = append(list, seal...)
 	return string(list)
 }
 
@@ -30,6 +30,17 @@ func written(x int) []byte {
 		x /= 128
 	}
 	list = append(list, byte(x))
+	return list
+}
+
+// sealOf: the sum of the bytes as it stands behind them, in a fresh list.
+func sealOf(content []byte) []byte {
+	list := []byte{}
+	crc := sum(content)
+	for k := 0; k < sumBytes; k++ {
+		list = append(list, byte(crc))
+		crc >>= 8
+	}
 	return list
 }
 

@@ -19,8 +19,18 @@ func framed(numbers []int) string {
 	return string(binary.LittleEndian.AppendUint32(list, crc32.ChecksumIEEE(content)))
 }
 
+// bytesOf: a snapshot of three frames, whose sums are right.
+func bytesOf(frames [3][]int) string {
+	return "HDT1" + framed(frames[0]) + framed(frames[1]) + framed(frames[2])
+}
+
 // save: the bytes of the layers.
 func (s *layers) save() string {
+	return bytesOf(s.frames())
+}
+
+// frames: the numbers that the layers' frames hold.
+func (s *layers) frames() [3][]int {
 	edges := []int{len(s.edges)}
 	for u := 0; u < s.n; u++ {
 		for v := u + 1; v < s.n; v++ {
@@ -39,7 +49,7 @@ func (s *layers) save() string {
 	for level := range s.next {
 		tours = append(tours, s.level(level)...)
 	}
-	return "HDT1" + framed([]int{s.n}) + framed(edges) + framed(tours)
+	return [3][]int{{s.n}, edges, tours}
 }
 
 // level: the trees of one level.

@@ -48,10 +48,10 @@ func (i *Index) countEdges() int {
 	return count
 }
 
-// joined: F(0) connects what the graph connects.
-func (i *Index) joined(u int, v int) bool {
-	least := i.forests[0].Least(u)
-	return least == i.forests[0].Least(v)
+// joined: are u and v in one tree of F(level)? F(0) connects what the graph connects.
+func (i *Index) joined(u int, v int, level int) bool {
+	least := i.forests[level].Least(u)
+	return least == i.forests[level].Least(v)
 }
 
 // vertices lists those of v's tree in F(level) in the order of its tour from

@@ -34,8 +34,36 @@ func New(n int, seed int) (*Index, api.Errno) {
 	return i, api.OK
 }
 
-// Load: the index that bytes are (P9, P10). Not built yet.
-func Load(s string, seed int) (*Index, api.Errno) { return nil, api.OK }
+// Load: the index that bytes are (P9, P10).
+func Load(s string, seed int) (*Index, api.Errno) {
+	if len(s) > api.MaxBytes {
+		return nil, api.ErrLong
+	}
+	if len(s) < len(magic) || s[:len(magic)] != magic {
+		return nil, api.ErrMagic
+	}
+	contents, ok := splitFrames(s[len(magic):])
+	if !ok {
+		return nil, api.ErrFrame
+	}
+	i := readVertices(contents[0], seed)
+	if i == nil {
+		return nil, api.ErrRecord
+	}
+	ok = i.readEdges(contents[1])
+	if !ok {
+		return nil, api.ErrRecord
+	}
+	ok = i.readTours(contents[2])
+	if !ok {
+		return nil, api.ErrTour
+	}
+	ok = i.levelsHold()
+	if !ok {
+		return nil, api.ErrLevel
+	}
+	return i, api.OK
+}
 
 // Save: all that there is, as bytes (P8).
 func (i *Index) Save() string {
@@ -61,7 +89,7 @@ func (i *Index) Insert(u int, v int) api.Errno {
 	if i.edges[u][v].there {
 		return api.ErrThere
 	}
-	if i.joined(u, v) {
+	if i.joined(u, v, 0) {
 		i.setEdge(u, v, edge{there: true})
 		return api.OK
 	}
@@ -92,7 +120,7 @@ func (i *Index) Connected(u int, v int) (bool, api.Errno) {
 	if !i.isVertex(u) || !i.isVertex(v) {
 		return false, api.ErrArg
 	}
-	return i.joined(u, v), api.OK
+	return i.joined(u, v, 0), api.OK
 }
 
 // Size: how many vertices v's component has (P4).

@@ -42,6 +42,22 @@ func TestP1NoCallPanics(t *testing.T) {
 	}
 }
 
+// Frames of any numbers, whose sums are right: whatever Load makes of them
+// can be called with all numbers.
+func TestP1NoLoadedIndexPanics(t *testing.T) {
+	c := chance{13}
+	numbers := append([]int{0, 1, 2, 3, 46, 47}, wild...)
+	for k := 0; k < 4000; k++ {
+		frames := makeLayers(1+c.below(8), &c).frames()
+		for j := c.below(4); j > 0; j-- {
+			list := frames[c.below(3)]
+			list[c.below(len(list))] = c.below(1 << c.below(29))
+		}
+		x, _ := index.Load(bytesOf(frames), k)
+		callAll(x, numbers[c.below(len(numbers))], numbers[c.below(len(numbers))])
+	}
+}
+
 // What a refused New gives has no vertices, like an index that nobody made.
 func TestP1NoIndex(t *testing.T) {
 	for _, x := range []*index.Index{nil, {}} {

@@ -81,6 +81,16 @@ func (f *Forest) Cut(u int, v int) {
 	f.put(round[back+1:])
 }
 
+// Lay: the round, which is a tour of vertices of the forest, becomes that of
+// their tree. Till now each of them is a tree by itself.
+func (f *Forest) Lay(round []Item) {
+	members := Vertices(round)
+	for _, v := range members {
+		f.take(Item{v, v})
+	}
+	f.put(round)
+}
+
 // Vertices lists those of a round in its order. The list is fresh.
 func Vertices(round []Item) []int {
 	list := []int{}

@@ -191,6 +191,31 @@ func TestRoundFrom(t *testing.T) {
 	}
 }
 
+// What is laid is the round from its least vertex on, wherever it began; the
+// other trees stay, and links and cuts go on from it.
+func TestLay(t *testing.T) {
+	want := planted(6, [2]int{2, 3}, [2]int{0, 3}, [2]int{1, 3})
+	round := want.Round(0)
+	for at := range round {
+		f := planted(6)
+		f.Lay(append(append([]tour.Item{}, round[at:]...), round[:at]...))
+		sameForest(t, 6, f, want)
+		f.Link(4, 5)
+		f.Cut(3, 0)
+		sameForest(t, 6, f, planted(6, [2]int{2, 3}, [2]int{1, 3}, [2]int{4, 5}))
+	}
+}
+
+func TestLayKeepsAListOfItsOwn(t *testing.T) {
+	f := planted(3)
+	round := []tour.Item{{0, 0}, {0, 2}, {2, 2}, {2, 0}}
+	f.Lay(round)
+	for k := range round {
+		round[k] = tour.Item{From: 1, To: 1}
+	}
+	sameForest(t, 3, f, planted(3, [2]int{0, 2}))
+}
+
 // A star and a way of all vertices, linked and cut in several orders: each
 // round begins at its least vertex, each item begins where the one ahead ends,
 // and each stands once.
